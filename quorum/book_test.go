@@ -154,17 +154,25 @@ func (b book) open() (Best, api.Errno) {
 	return b.putAll(m, base)
 }
 
-// mayBe says what the words say of a manifest that is put, ahead of any call.
-func (b book) mayBe(m Best) api.Errno {
+// hasBytes says what is wrong with a manifest by itself, by chapter 11.
+func hasBytes(m Best) api.Errno {
 	count := func(n int) bool { return 0 <= n && n <= api.MaxCount }
 	c := m.Code
-	if c.N != b.w.N() || c.K < 1 || c.K > c.N || c.N > most || !count(m.Stamp.Epoch) || !count(m.Stamp.Gen) {
+	if c.K < 1 || c.K > c.N || c.N > most || !count(m.Stamp.Epoch) || !count(m.Stamp.Gen) {
 		return api.ErrArg
 	}
 	if len(m.Body) > room {
 		return api.ErrTooLarge
 	}
 	return api.OK
+}
+
+// mayBe says what the words say of a manifest that Write and Init put, ahead of any call.
+func (b book) mayBe(m Best) api.Errno {
+	if m.Code.N != b.w.N() {
+		return api.ErrArg
+	}
+	return hasBytes(m)
 }
 
 func (b book) write(base Best, body string) (Best, api.Errno) {
@@ -211,13 +219,10 @@ func (b book) bad(base Best) (Best, api.Errno) {
 }
 
 func (b book) mend(base Best) (Best, api.Errno) {
-	if e := b.mayBe(base); e != api.OK {
-		return Best{}, e
-	}
 	b.gets()
 	e := api.OK
 	for i := range b.w.N() {
-		if !b.w.Up(i) || !b.has(i, base) && !b.put(i, base, base.Stamp) {
+		if !b.w.Up(i) || !b.has(i, base) && (hasBytes(base) != api.OK || !b.put(i, base, base.Stamp)) {
 			e = api.ErrIO
 		}
 	}
@@ -392,7 +397,7 @@ func TestAsTheBook(t *testing.T) {
 		"Write": {api.OK, api.ErrArg, api.ErrTooLarge, api.ErrCut, api.ErrQuorum, api.ErrIO},
 		"Init":  {api.OK, api.ErrArg, api.ErrTooLarge, api.ErrCut, api.ErrTwice, api.ErrQuorum, api.ErrIO},
 		"Bad":   {api.OK, api.ErrCut},
-		"Mend":  {api.OK, api.ErrArg, api.ErrTooLarge, api.ErrCut, api.ErrIO},
+		"Mend":  {api.OK, api.ErrCut, api.ErrIO},
 	} {
 		for _, e := range all {
 			if met[name][e] < 20 {

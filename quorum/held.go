@@ -69,7 +69,7 @@ func gather(w *world.World) ([]held, api.Errno) {
 	return all, api.OK
 }
 
-// looked is what was got of a slot, looked at, in a world of n stores; the data of nothing is no manifest.
+// looked is what stands in a slot, looked at, in a world of n stores; the data of nothing is no manifest.
 func looked(data string, n int) replica {
 	f, e := frame.Read(data)
 	if e != api.OK || f.Code.N != n {
@@ -137,6 +137,7 @@ func enough(all []held, need int, do func(i int, h *held) api.Errno) api.Errno {
 // putter puts a manifest that may be into the slot of a store that is told, then syncs the store: also where the put was refused, as the chapter asks for both. What the store has then is kept in mind, so that what is put next goes by it.
 func putter(w *world.World, b Best, slot func(*held) int) func(i int, h *held) api.Errno {
 	data, _ := frame.Make(frame.Frame(b))
+	put := looked(data, w.N())
 	return func(i int, h *held) api.Errno {
 		at := slot(h)
 		e := w.Put(i, api.Object{Name: name(at), Data: data})
@@ -144,7 +145,7 @@ func putter(w *world.World, b Best, slot func(*held) int) func(i int, h *held) a
 			return e
 		}
 		if e == api.OK {
-			h.slots[at] = replica{sound: true, Best: b}
+			h.slots[at] = put
 		}
 		if e := w.Sync(i); e != api.OK {
 			return e

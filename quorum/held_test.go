@@ -15,7 +15,7 @@ func TestNoWorld(t *testing.T) {
 		}
 		// One that no call made has no stores; no code is its.
 		for _, c := range sixOver(base) {
-			if c.name == "Write" || c.name == "Init" || c.name == "Mend" {
+			if c.name == "Write" || c.name == "Init" {
 				refuses(t, &world.World{}, c, api.ErrArg, 0)
 			} else {
 				c.do(&world.World{})

@@ -163,6 +163,139 @@ func TestBadOfWrongBases(t *testing.T) {
 		put(t, w, i, "m1", bytesOf(foreign))
 	}
 	does(t, w, counting(foreign), count(3), api.OK, 6)
-	refuses(t, w, mending(foreign), api.ErrArg, 0)
 	does(t, w, counting(b), Best{}, api.OK, 6)
+}
+
+// noBytes are manifests that may not be, or are too large, for a world of n stores.
+func noBytes(n int) []Best {
+	huge := sample(room+1, 1)
+	all := []Best{{}, {Body: "x"}, {Stamp: stamp(1, 1), Body: huge}, {Stamp: stamp(1, 1), Code: two(1, most+1), Body: "x"}}
+	for _, c := range wrongCodes(n) {
+		if c.K < 1 || c.K > c.N || c.N > most {
+			all = append(all, Best{Stamp: stamp(1, 1), Code: c, Body: "x"}, Best{Stamp: stamp(1, 1), Code: c, Body: huge})
+		}
+	}
+	for _, count := range wrongCounts() {
+		for _, s := range []api.Stamp{stamp(count, 1), stamp(1, count), stamp(count, count)} {
+			all = append(all, Best{Stamp: s, Code: two(1, n), Body: "x"})
+		}
+	}
+	for _, size := range []int{room + 1, room + 2, api.MaxObject, 3 * api.MaxObject} {
+		all = append(all, Best{Stamp: stamp(1, 1), Code: two(1, n), Body: sample(size, 1)})
+	}
+	return all
+}
+
+// P12.2: what has no bytes is taken by none: the slots are got, nothing is put and nothing synced, and it is ErrIO, whatever stands there, and though all answer; without the power it is ErrCut, as of any other.
+func TestMendOfNoBytes(t *testing.T) {
+	for n := 1; n <= most; n++ {
+		bare, full := of(t, n), of(t, n)
+		for i := range n {
+			lay(t, full, i, Best{Stamp: stamp(1, 1), Code: two(1, n), Body: "x"}, Best{})
+			same(t, full.Put(i, api.Object{Name: "m1", Data: "not synced"}), api.OK)
+			strike(t, full, refusing(i, 0))
+		}
+		part, gone := bare.Copy(), bare.Copy()
+		strike(t, part, down(n-1))
+		darken(t, gone)
+		for _, b := range noBytes(n) {
+			refuses(t, bare, mending(b), api.ErrIO, 2*n)
+			refuses(t, full, mending(b), api.ErrIO, 2*n)
+			refuses(t, part, mending(b), api.ErrIO, 2*n)
+			refuses(t, gone, mending(b), api.ErrCut, 1)
+		}
+		for i := range n {
+			same(t, full.Put(i, api.Object{Name: "a"}), api.ErrIO)
+		}
+	}
+}
+
+// P12.2: the power goes at some call by which the slots are got: ErrCut, though nothing could be put.
+func TestMendOfNoBytesCut(t *testing.T) {
+	for after := range 7 {
+		for _, b := range []Best{{}, {Stamp: stamp(1, 1), Code: two(4, 3)}, man(1, 1, sample(room+1, 1))} {
+			w := of(t, 3)
+			w.Cut(after)
+			if after < 6 {
+				refuses(t, w, mending(b), api.ErrCut, after+1)
+			} else {
+				refuses(t, w, mending(b), api.ErrIO, 6)
+			}
+		}
+	}
+}
+
+// P12.2: the inputs that were told: no store of two takes what has no bytes; one store without the power; one store takes a manifest of two.
+func TestMendAsTold(t *testing.T) {
+	for _, b := range []Best{{}, {Stamp: stamp(1, 1), Code: two(3, 2)}, {Stamp: stamp(1, 1), Code: two(1, 2), Body: sample(65536, 1)}} {
+		w := of(t, 2)
+		refuses(t, w, mending(b), api.ErrIO, 4)
+		holds(t, w, 0)
+		holds(t, w, 1)
+	}
+	w := of(t, 1)
+	w.Cut(0)
+	same(t, Mend(w, Best{}), api.ErrCut)
+	w = of(t, 1)
+	b := Best{Stamp: stamp(1, 1), Code: two(1, 2), Body: "x"}
+	same(t, Mend(w, b), api.OK)
+	holds(t, w, 0, "m0", bytesOf(b))
+}
+
+// P12.2: a manifest of another number of stores is put for good to all that answer, each time anew, since no replica that is sound here is its.
+func TestMendOfAnotherN(t *testing.T) {
+	for n := 1; n <= most; n++ {
+		for _, c := range codes() {
+			if c.N == n {
+				continue
+			}
+			b := Best{Stamp: stamp(2, 3), Code: c, Body: "x"}
+			w := of(t, n)
+			for range 2 {
+				does(t, w, mending(b), Best{}, api.OK, 4*n)
+				does(t, w, counting(b), count(n), api.OK, 2*n)
+				for i := range n {
+					tells(t, w, i, bytesOf(b), "")
+					stands(t, w, i, bytesOf(b), "")
+				}
+			}
+			strike(t, w, down(n-1))
+			does(t, w, mending(b), Best{}, api.ErrIO, 4*n-2)
+		}
+	}
+}
+
+// P12.2: which slot a manifest of another number of stores takes: that of the same stamp stays, as ahead of any other.
+func TestSlotOfAnotherN(t *testing.T) {
+	b := Best{Stamp: stamp(2, 3), Code: two(2, 4), Body: "base"}
+	for _, s := range slotCases() {
+		t.Log(s.name)
+		w := holding(t, 1, s)
+		does(t, w, mending(b), Best{}, api.OK, 12)
+		m0, m1 := s.put(bytesOf(b))
+		tells(t, w, 0, bytesOf(b), "")
+		tells(t, w, 1, m0, m1)
+		tells(t, w, 2, bytesOf(b), "")
+	}
+}
+
+// P12.2: whichever stores refuse a manifest of another number of stores, or do not answer: the others get it, and it is ErrIO.
+func TestMendOfAnotherNRefused(t *testing.T) {
+	b := man(1, 1, "x")
+	for _, n := range []int{1, 2, 4, 5} {
+		for which := 1; which < 1<<n; which++ {
+			w := of(t, n)
+			strikeAll(t, w, which, func(i int) api.Fault { return refusing(i, 0) })
+			does(t, w, mending(b), Best{}, api.ErrIO, 4*n)
+			for i := range n {
+				if in(which, i) {
+					holds(t, w, i)
+				} else {
+					stands(t, w, i, bytesOf(b), "")
+				}
+			}
+			strikeAll(t, w, which, down)
+			does(t, w, mending(b), Best{}, api.ErrIO, 4*n-2*ones(which))
+		}
+	}
 }

@@ -71,7 +71,6 @@ func TestWrongArguments(t *testing.T) {
 					refuses(t, w, starting(c, body), api.ErrArg, 0)
 					refuses(t, w, writing(Best{Stamp: stamp(1, 1), Code: c}, body), api.ErrArg, 0)
 					refuses(t, w, writing(Best{Stamp: stamp(1, api.MaxCount), Code: c}, body), api.ErrArg, 0)
-					refuses(t, w, mending(Best{Stamp: stamp(1, 1), Code: c, Body: body}), api.ErrArg, 0)
 				}
 			}
 			c := two(1, n)
@@ -79,14 +78,12 @@ func TestWrongArguments(t *testing.T) {
 				for _, s := range []api.Stamp{stamp(count, 1), stamp(1, count), stamp(count, count), stamp(count, api.MaxCount)} {
 					for _, body := range []string{"x", huge} {
 						refuses(t, w, writing(Best{Stamp: s, Code: c}, body), api.ErrArg, 0)
-						refuses(t, w, mending(Best{Stamp: s, Code: c, Body: body}), api.ErrArg, 0)
 					}
 				}
 			}
 			for _, body := range []string{huge, huge + "x", sample(api.MaxObject, 2), sample(3*api.MaxObject, 3)} {
 				refuses(t, w, starting(c, body), api.ErrTooLarge, 0)
 				refuses(t, w, writing(Best{Stamp: stamp(1, 1), Code: c}, body), api.ErrTooLarge, 0)
-				refuses(t, w, mending(Best{Stamp: stamp(1, 1), Code: c, Body: body}), api.ErrTooLarge, 0)
 			}
 			refuses(t, w, writing(Best{Stamp: stamp(1, api.MaxCount), Code: c}, "x"), api.ErrTooLarge, 0)
 			refuses(t, w, writing(Best{Stamp: stamp(1, api.MaxCount), Code: c}, huge), api.ErrTooLarge, 0)
